@@ -131,10 +131,10 @@ func (p parts) commit(c api.Command) api.Errno {
 // gone ends a group and its subscriber.
 func (p parts) gone(name string) api.Errno {
 	sub, e := p.groups.Drop(name)
-	if e != api.OK {
-		return e
+	if e == api.OK {
+		p.feed.Drop(sub) // one that is no more already is just as it should be, and the group has gone: no error may be told
 	}
-	return p.feed.Drop(sub)
+	return e
 }
 
 // share begins a group and its subscriber, or none of them: the subscriber's number.

@@ -20,7 +20,7 @@ func TestLivesAreTheModels(t *testing.T) {
 			if r.Intn(40) == 0 {
 				c.Part++ // often one that may not be
 			}
-			before, views := m.Keys("", ""), m.Views()
+			keys, views, subs, groups, mark := m.Keys("", ""), m.Views(), m.Subs(), m.Groups(), m.Mark()
 			got, reply := m.Apply(m.At()+1, modelPut(c)), want.Apply(want.at+1, c)
 			if counts[c.Kind] == nil {
 				counts[c.Kind] = map[api.Errno]int{}
@@ -32,7 +32,8 @@ func TestLivesAreTheModels(t *testing.T) {
 			if e := same(m, want); e != nil {
 				t.Fatalf("%v: %v: %v", c, got, e)
 			}
-			if got.Err != api.OK && (!slices.Equal(m.Keys("", ""), before) || !slices.Equal(m.Views(), views)) {
+			still := slices.Equal(m.Keys("", ""), keys) && slices.Equal(m.Views(), views) && alike(m.Subs(), subs) && sameGroups(m.Groups(), groups) && m.Mark() == mark
+			if got.Err != api.OK && !still { // its place and its number are counted, and no more
 				t.Fatalf("%v: %v changed something", c, got)
 			}
 			reads(t, r, m, want)
@@ -57,7 +58,7 @@ func TestLivesAreTheModels(t *testing.T) {
 func met() map[int][]api.Errno {
 	return map[int][]api.Errno{
 		0: {0}, 1: {0, 7}, 2: {0, 7, 60, 72, 90, 92, 100}, 3: {0}, 4: {0, 7, 70, 72}, 5: {0, 71}, 6: {0, 7}, 7: {0, 5, 80, 81, 82}, 8: {0, 80}, 9: {0, 100},
-		10: {0, 7, 72, 101, 100}, 11: {0, 72, 100}, 12: {0, 7, 70, 100}, 13: {0, 7, 220}, 14: {0, 220, 221}, 15: {0, 1, 82, 220, 221, 222, 223}, 16: {0, 80, 220},
+		10: {0, 7, 72, 101, 100}, 11: {0, 72, 100}, 12: {0, 7, 70, 100}, 13: {0, 7, 220}, 14: {0, 220, 221}, 15: {0, 1, 82, 220, 221, 222, 223}, 16: {0, 220},
 	}
 }
 

@@ -411,8 +411,67 @@ func TestGroupsWithoutRoom(t *testing.T) {
 	if l, to, e := p.Poll("b", 0, 9, 1); len(l) != 0 || to != 0 || e != api.ErrFeed {
 		t.Error(l, to, e)
 	}
-	p.does(named(api.CGone, "b"), api.ErrFeed, 0) // the group goes; of its subscriber that there is none is told
+	again := p.does(named(api.CGone, "b"), api.OK, 0) // its subscriber is none already
+	if got := p.Apply(p.At()+1, again); got != (api.Reply{}) {
+		t.Error("once more:", got)
+	}
 	p.does(named(api.CGone, "b"), api.ErrGroup, 0)
+	if l := p.Groups(); len(l) != 2 || l[0].Name != "c" || l[1].Name != "d" {
+		t.Error(l)
+	}
+}
+
+// P15.2: a group ends, and its subscriber with it, if there is one: whether that one reads, was let go, was dropped, or never was.
+func TestGroupsEndWhateverTheirSubscriberIs(t *testing.T) {
+	letGo := func(p *play) {
+		for i := range 6 {
+			l := many(6)
+			for j := range l {
+				l[j].Value = string(rune('a' + i))
+			}
+			p.write(api.OK, l...)
+		}
+		if l := p.Subs(); len(l) != 2 || !l[0].Gone {
+			t.Error("it should be let go:", l)
+		}
+	}
+	stranger := func(p *play) { // one whose group has a subscriber that the feed does not have
+		x := group.New()
+		x.Add("g", 2, 7, 1)
+		m, e := Load(modelImage(p.At(), p.Mark(), p.Keys("", ""), p.Views(), p.feed.Put(nil), p.seats.Put(nil), x.Put(nil)))
+		if e != api.OK {
+			t.Fatal(e)
+		}
+		p.Machine = m
+	}
+	for name, x := range map[string]struct {
+		before func(*play)
+		left   []int // subscribers
+	}{
+		"reads":    {func(p *play) { p.write(api.OK, put("a", "1")) }, []int{2}},
+		"let go":   {letGo, []int{2}},
+		"dropped":  {func(p *play) { p.does(api.Command{Kind: api.CUnsub, Sub: 1}, api.OK, 0) }, []int{2}},
+		"stranger": {stranger, []int{1, 2}},
+		"all gone": {func(p *play) {
+			p.does(api.Command{Kind: api.CUnsub, Sub: 2}, api.OK, 0)
+			p.does(api.Command{Kind: api.CUnsub, Sub: 1}, api.OK, 0)
+		}, nil},
+	} {
+		p := begin(t)
+		p.does(api.Command{Kind: api.CGroup, View: api.View{Name: "g"}, Pos: 2}, api.OK, 1)
+		p.does(named(api.CJoin, "g"), api.OK, 1)
+		p.does(api.Command{Kind: api.CSub}, api.OK, 2)
+		x.before(p)
+		p.does(named(api.CGone, "g"), api.OK, 0)
+		var left []int
+		for _, s := range p.Subs() {
+			left = append(left, s.ID)
+		}
+		if len(p.Groups()) != 0 || !slices.Equal(left, x.left) {
+			t.Error(name, p.Groups(), left)
+		}
+		p.does(named(api.CGone, "g"), api.ErrGroup, 0)
+	}
 }
 
 // P15.3

@@ -322,7 +322,7 @@ func (m *model) do(c api.Command) (n int, l []api.Event, e api.Errno) {
 	case 16:
 		var sub int
 		if sub, e = m.groups.Drop(name); e == 0 {
-			e = m.feed.Drop(sub)
+			m.feed.Drop(sub) // whether it was there or not
 		}
 	}
 	return n, l, e
