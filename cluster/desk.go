@@ -11,22 +11,8 @@ import (
 type hand struct {
 	session int // 0: none
 	counted int
-	call    int // which of all calls it waits for, from 1 on; 0: none
-}
-
-// call is what a client wants, and was told. Of the command it has the kind alone: all of it are the bytes, with the session and the number.
-type call struct {
-	api.Call
-	data []byte
-}
-
-// tell is a call as it was asked, in new memory.
-func (k call) tell() api.Call {
-	out := k.Call
-	out.Command, _ = machine.Get(k.data)
-	out.Command.Session, out.Command.Seq = 0, 0
-	out.Map = slices.Clone(k.Map)
-	return out
+	call    int    // which of all calls it waits for, from 1 on; 0: none
+	data    []byte // that one's command, with the session and the number
 }
 
 // ticket is by what a node knows which client to answer: an entry's index and term, or a read's number.
@@ -39,7 +25,7 @@ type ticket struct {
 // desk is all that clients want, and who is to be answered.
 type desk struct {
 	hands   [api.MaxHands]hand
-	calls   []call
+	calls   []api.Call // the commands as they were asked
 	tickets []ticket
 	reads   int // the last one's number
 	now     int // the step's number
@@ -62,19 +48,19 @@ func (d *desk) take(gone func(ticket) bool) []ticket {
 func (d *desk) takeOf(h int) { d.take(func(t ticket) bool { return t.hand == h }) }
 
 // begin has a client wait for a new call.
-func (d *desk) begin(h int, data []byte, kind int) {
-	d.calls = append(d.calls, call{api.Call{Hand: h, Command: api.Command{Kind: kind}, Began: d.now}, data})
-	d.hands[h].call = len(d.calls)
+func (d *desk) begin(h int, c api.Command, data []byte) {
+	d.calls = append(d.calls, api.Call{Hand: h, Command: ownCommand(c), Began: d.now})
+	d.hands[h].call, d.hands[h].data = len(d.calls), data
 }
 
 // waiting is the call that a client waits for.
-func (d *desk) waiting(h int) *call { return &d.calls[d.hands[h].call-1] }
+func (d *desk) waiting(h int) *api.Call { return &d.calls[d.hands[h].call-1] }
 
 // answer is what came of a client's call.
 func (d *desk) answer(h, index int, r api.Reply, keys []api.Op) {
 	k := d.waiting(h)
 	k.Ended, k.Index, k.Reply, k.Map = d.now, index, r, keys
-	d.hands[h].call = 0
+	d.hands[h].call, d.hands[h].data = 0, nil
 	if k.Command.Kind == api.COpen && r.Err == api.OK {
 		d.hands[h] = hand{session: r.N}
 	}

@@ -91,7 +91,7 @@ func (c *Cluster) begun(s api.Step) error {
 	if counts {
 		h.counted++
 	}
-	c.begin(s.Hand, data, k.Kind)
+	c.begin(s.Hand, s.Command, data)
 	c.ask(s.Hand, s.Node)
 	return nil
 }
@@ -103,15 +103,14 @@ func (c *Cluster) ask(h, i int) {
 		return
 	}
 	c.takeOf(h)
-	k := c.waiting(h)
-	if k.Command.Kind == api.CNone {
+	if c.waiting(h).Command.Kind == api.CNone {
 		c.reads++
 		c.want(ticket{hand: h, node: i, read: c.reads}, api.Input{Kind: api.IRead, ID: c.reads})
 		return
 	}
 	if s := n.State(); s.Role == api.Leading {
 		index := s.Base.Index + len(s.Rows) + 1
-		c.want(ticket{hand: h, node: i, index: index, term: s.Hard.Term}, api.Input{Kind: api.IWrite, Data: k.data})
+		c.want(ticket{hand: h, node: i, index: index, term: s.Hard.Term}, api.Input{Kind: api.IWrite, Data: c.hands[h].data})
 	}
 }
 
